@@ -99,6 +99,21 @@ func servedModel(f impl.Field, set []int) []int {
 	return served
 }
 
+// groupsModel gives for each site of a set the clients that it serves.
+func groupsModel(served, set []int) [][]int {
+	groups := [][]int{}
+	for _, site := range set {
+		group := []int{}
+		for client, by := range served {
+			if by == site {
+				group = append(group, client)
+			}
+		}
+		groups = append(groups, group)
+	}
+	return groups
+}
+
 // serviceModel gives the service and the reach of a set with at least one site.
 func serviceModel(f impl.Field, set []int) (int, int) {
 	service, reach := 0, 0

@@ -25,17 +25,10 @@ func checkServed(t *testing.T, f impl.Field, set, served []int) {
 	t.Helper()
 	got, ok := impl.ServedBy(f, set)
 	checkList(t, "ServedBy", f, set, got, ok, served)
-	groups, idle := [][]int{}, []int{}
-	for _, site := range set {
-		group := []int{}
-		for client, by := range served {
-			if by == site {
-				group = append(group, client)
-			}
-		}
-		groups = append(groups, group)
+	groups, idle := groupsModel(served, set), []int{}
+	for place, group := range groups {
 		if len(group) == 0 {
-			idle = append(idle, site)
+			idle = append(idle, set[place])
 		}
 	}
 	if got, ok := impl.ClientsOf(f, set); !ok || !sameRows(got, groups) {
