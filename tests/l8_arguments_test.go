@@ -60,12 +60,19 @@ func gainSamples(state uint32) []gainArguments {
 // checkGainParts calls all functions that take a part that is not valid.
 func checkGainParts(t *testing.T, name, part string, bad gainArguments) {
 	t.Helper()
-	for call, of := range gainCalls() {
+	checkFailures(t, name, part, textOf(bad.f)+" for "+listOf(bad.set), gainCalls(), bad)
+}
+
+// checkFailures calls those of some functions that take a part of arguments,
+// which is not valid; the text tells the other parts.
+func checkFailures[A any](t *testing.T, name, part, text string, calls map[string]func(a A) outcome, bad A) {
+	t.Helper()
+	for call, of := range calls {
 		if !strings.Contains(partsOf(call), part) {
 			continue
 		}
 		if got := of(bad); !got.isZero() {
-			t.Errorf("%s: %s of %q for %v = %s", name, call, textOf(bad.f), bad.set, got.text())
+			t.Errorf("%s: %s of %s = %s", name, call, text, got.text())
 		}
 	}
 }

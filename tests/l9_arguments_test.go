@@ -4,7 +4,6 @@ import (
 	"math"
 	"slices"
 	"strconv"
-	"strings"
 	"testing"
 
 	"loop.example/g01110/impl"
@@ -89,14 +88,7 @@ func mayFail(call string, a gameArguments) bool {
 // checkGameParts calls all functions that take a part that is not valid.
 func checkGameParts(t *testing.T, name, part string, bad gameArguments) {
 	t.Helper()
-	for call, of := range gameCalls() {
-		if !strings.Contains(partsOf(call), part) {
-			continue
-		}
-		if got := of(bad); !got.isZero() {
-			t.Errorf("%s: %s of %q = %s", name, call, textOf(bad.f), got.text())
-		}
-	}
+	checkFailures(t, name, part, textOf(bad.f), gameCalls(), bad)
 }
 
 func TestP9ArgumentsThatAreValid(t *testing.T) {
